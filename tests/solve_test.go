@@ -212,7 +212,7 @@ func TestSolvedAsByPlainRounds(t *testing.T) {
 	everyGraph(5, []int{3}, func(g impl.Graph) { isSolvedByRounds(t, g) })
 }
 
-// A reckoned graph has what the document's rounds do with it, and what is told then. pairs has A and B of each couple, one behind the other.
+// A reckoned graph has what the document's rounds do with it, and what is told then: small graphs were reckoned by hand, the greater ones were looked for among drawn graphs and have what the plain rounds tell of them. pairs has A and B of each couple, one behind the other.
 type reckoned struct {
 	g      impl.Graph
 	told   string
@@ -273,7 +273,7 @@ func TestWaysAndPairsByHand(t *testing.T) {
 	})
 }
 
-func TestRingsByHand(t *testing.T) {
+func TestRingsAndTheirGroups(t *testing.T) {
 	isSolvedAsReckoned(t, map[string]reckoned{
 		"of three": {g: thirdWorths(3, 0, 1, 2, 0, 2, 2, 1, 2, 2),
 			told: "pair 0,1; ring 3: 2,0,1; shift 2; open 3 by base 2, ending", pairs: []int{0, 1}, y: []int{0, 0, 0}, groups: []impl.Group{{Members: []int{0, 1, 2}, Z: 4}}, rounds: 3},
