@@ -96,72 +96,23 @@ func everyGraph(size int, worths []int, tell func(impl.Graph)) {
 	from(0, impl.Graph{Size: size})
 }
 
-func hasBoth(x impl.Group, e impl.Edge) bool {
-	return slices.Contains(x.Members, e.A) && slices.Contains(x.Members, e.B)
-}
-
-func slackByHand(p impl.Proof, e impl.Edge) int {
-	sum := p.Y[e.A] + p.Y[e.B] - 2*scalarOf(e)
-	for _, x := range p.Groups {
-		if hasBoth(x, e) {
-			sum += x.Z
-		}
-	}
-	return sum
-}
-
-// groupFault says what is wrong with the form of a proof's Groups.
-func groupFault(g impl.Graph, groups []impl.Group) string {
-	for i, x := range groups {
-		if len(x.Members) < 3 || len(x.Members)%2 == 0 || x.Z < 1 || x.Z > 1000000000 {
-			return "a Group of an even number, of too few, or of no z"
-		}
-		if !slices.IsSorted(x.Members) || len(slices.Compact(slices.Clone(x.Members))) != len(x.Members) || x.Members[0] < 0 || slices.Max(x.Members) >= g.Size {
-			return "Members that don't ascend, or are no vertices"
-		}
-		for _, other := range groups[:i] {
-			if slices.Compare(other.Members, x.Members) >= 0 {
-				return "Groups that are not in order"
-			}
-			common := 0
-			for _, v := range x.Members {
-				if slices.Contains(other.Members, v) {
-					common++
-				}
-			}
-			if common != 0 && common != min(len(x.Members), len(other.Members)) {
-				return "Groups that cut each other"
-			}
-		}
-	}
-	return ""
-}
-
-// proofFault says why a proof does not certify a pairing, by what the checker's chapter asks.
+// proofFault says why a proof that was told with a pairing is not what the document asks of the two.
 func proofFault(g impl.Graph, s solution) string {
-	if len(s.proof.Y) != g.Size || len(s.proof.Groups) > 8 {
-		return "not as many y as vertices, or too many Groups"
-	}
-	if fault := groupFault(g, s.proof.Groups); fault != "" {
+	if fault := checkFault(g, s.proof); fault != "" {
 		return fault
 	}
-	bound := 0
+	for i := 1; i < len(s.proof.Groups); i++ {
+		if slices.Compare(s.proof.Groups[i-1].Members, s.proof.Groups[i].Members) >= 0 {
+			return "Groups that are not in order"
+		}
+	}
 	for v, y := range s.proof.Y {
 		isAlone := !slices.ContainsFunc(s.pairs, func(c impl.Couple) bool { return c.A == v || c.B == v })
-		if y < 0 || y > 1000000000 || isAlone && y != 0 {
-			return "a y below 0, or not 0 of a vertex without a couple"
-		}
-		bound += y
-	}
-	for _, x := range s.proof.Groups {
-		bound += x.Z * (len(x.Members) / 2)
-	}
-	for _, e := range g.Edges {
-		if slackByHand(s.proof, e) < 0 {
-			return "an edge with a slack below 0"
+		if isAlone && y != 0 {
+			return "a y that is not 0 of a vertex without a couple"
 		}
 	}
-	if bound != 2*scalarsByHand(g, s.pairs) {
+	if twiceByHand(s.proof) != 2*scalarsByHand(g, s.pairs) {
 		return "the Scalars are not what y and the Groups tell"
 	}
 	return ""
@@ -175,6 +126,9 @@ func isCertifiedBest(t *testing.T, g impl.Graph) {
 	}
 	if fault := proofFault(g, s); fault != "" {
 		t.Fatalf("of %+v Solve tells %+v: %s", g, s, fault)
+	}
+	if !impl.Certifies(g, s.pairs, s.proof) {
+		t.Fatalf("of %+v Solve tells %+v, which Certifies refuses", g, s)
 	}
 }
 
