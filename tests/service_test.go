@@ -461,22 +461,32 @@ func TestPoolsOfMaxPoolAndMoreAreHandled(t *testing.T) {
 	}
 }
 
+// asked has the hall behind a text that is asked of it, and what is answered, as long as the map can be kept.
+func (h *plainHall) asked(t *testing.T, text string) (*plainHall, string) {
+	t.Helper()
+	behind := h.clone()
+	x, ok := plainAsk(text)
+	if !ok {
+		return behind, "fail 1"
+	}
+	if code := behind.step(t, x); code != 0 {
+		return behind, fmt.Sprintf("fail %d", code)
+	}
+	return behind, behind.reply(x)
+}
+
 // handlesAs does an ask of a store and of the second way, which is then the hall behind it, and answers both results of Handle.
 func handlesAs(t *testing.T, s impl.Store, h *plainHall, text string) (impl.Store, string) {
 	t.Helper()
-	ahead, want, wantTold := h.clone(), s, "fail 1"
-	if x, ok := plainAsk(text); ok {
-		code := h.step(t, x)
-		if wantTold = fmt.Sprintf("fail %d", code); code == 0 {
-			wantTold = h.reply(x)
-		}
-		if m := h.pairs(); !slices.Equal(m, s.Map) {
-			next, _, isKept := impl.CommitStore(s, m)
-			if want = next; !isKept {
-				*h, want, wantTold = *ahead, s, "fail 9"
-			}
+	behind, wantTold := h.asked(t, text)
+	want := s
+	if m := behind.pairs(); !slices.Equal(m, s.Map) {
+		next, _, isKept := impl.CommitStore(s, m)
+		if want = next; !isKept {
+			behind, want, wantTold = h, s, "fail 9"
 		}
 	}
+	*h = *behind
 	got, told := impl.Handle(s, text)
 	if told != wantTold {
 		t.Fatalf("%q of %q is answered with %q, not %q", text, s.Map, told, wantTold)
